@@ -1,0 +1,95 @@
+package dn
+
+import (
+	"strings"
+	"sync"
+
+	"brook/api"
+)
+
+// kind of a byte: how it stands in a value's text.
+type kind byte
+
+const (
+	coded  kind = iota // as a mark and two digits
+	plain              // as it is
+	free               // as it is; it may be behind a mark
+	atHead             // as free, but behind a mark where it is the first
+	atEnds             // as free, but behind a mark where it is the first or the last
+	always             // behind a mark
+)
+
+const (
+	lastPlain = '~'         // bytes above it are coded
+	marked    = ",+\"\\<>;" // bytes that are always behind a mark
+	digits    = "0123456789abcdef"
+)
+
+// kinds of the bytes up to lastPlain.
+var (
+	kinds     [lastPlain + 1]kind
+	kindsOnce sync.Once
+)
+
+// Text makes the text of a list, whether it may be or not.
+func Text(l []api.Rdn) string {
+	var b strings.Builder
+	for i, r := range l {
+		if i > 0 {
+			b.WriteByte(comma)
+		}
+		b.WriteString(r.Type)
+		b.WriteByte('=')
+		writeVal(&b, r.Val)
+	}
+	return b.String()
+}
+
+func writeVal(b *strings.Builder, val string) {
+	for i := range len(val) {
+		c := val[i]
+		if kindOf(c) == coded {
+			b.WriteByte(mark)
+			b.WriteByte(digits[c>>4])
+			b.WriteByte(digits[c&15])
+			continue
+		}
+		if needsMark(val, i) {
+			b.WriteByte(mark)
+		}
+		b.WriteByte(c)
+	}
+}
+
+// needsMark tells whether the byte at a place of s stands behind a mark, if s is a value, or a text of one.
+func needsMark(s string, at int) bool {
+	switch kindOf(s[at]) {
+	case always:
+		return true
+	case atHead:
+		return at == 0
+	case atEnds:
+		return at == 0 || at == len(s)-1
+	}
+	return false
+}
+
+func kindOf(c byte) kind {
+	kindsOnce.Do(fillKinds)
+	if c > lastPlain {
+		return coded
+	}
+	return kinds[c]
+}
+
+func fillKinds() {
+	for c := blank; c <= lastPlain; c++ {
+		kinds[c] = plain
+	}
+	kinds['='] = free
+	kinds['#'] = atHead
+	kinds[blank] = atEnds
+	for i := range len(marked) {
+		kinds[marked[i]] = always
+	}
+}
