@@ -25,7 +25,7 @@ const (
 	digits    = "0123456789abcdef"
 )
 
-// kinds of the bytes up to lastPlain.
+// kinds is a table of what kindOf says of the bytes up to lastPlain. Only room asks it: no answer is worked out of it.
 var (
 	kinds     [lastPlain + 1]kind
 	kindsOnce sync.Once
@@ -34,6 +34,7 @@ var (
 // Text makes the text of a list, whether it may be or not.
 func Text(l []api.Rdn) string {
 	var b strings.Builder
+	b.Grow(room(l))
 	for i, r := range l {
 		if i > 0 {
 			b.WriteByte(comma)
@@ -75,21 +76,47 @@ func needsMark(s string, at int) bool {
 }
 
 func kindOf(c byte) kind {
-	kindsOnce.Do(fillKinds)
-	if c > lastPlain {
+	switch {
+	case c < blank || c > lastPlain:
 		return coded
+	case c == '=':
+		return free
+	case c == '#':
+		return atHead
+	case c == blank:
+		return atEnds
+	case strings.IndexByte(marked, c) >= 0:
+		return always
 	}
-	return kinds[c]
+	return plain
 }
 
 func fillKinds() {
-	for c := blank; c <= lastPlain; c++ {
-		kinds[c] = plain
+	for c := range kinds {
+		kinds[c] = kindOf(byte(c))
 	}
-	kinds['='] = free
-	kinds['#'] = atHead
-	kinds[blank] = atEnds
-	for i := range len(marked) {
-		kinds[marked[i]] = always
+}
+
+// room tells how many bytes the text of a list has at most, so that it is not moved as it grows.
+func room(l []api.Rdn) int {
+	kindsOnce.Do(fillKinds)
+	n := 0
+	for _, r := range l {
+		n += len(r.Type) + len("=,")
+		for i := range len(r.Val) {
+			n += widest(r.Val[i])
+		}
 	}
+	return n
+}
+
+// widest tells, by the table, in how many bytes of text a value's byte stands at most.
+func widest(c byte) int {
+	if c > lastPlain || kinds[c] == coded {
+		return 3
+	}
+	if kinds[c] >= atHead {
+		return 2
+	}
+	return 1
 }
