@@ -1,0 +1,83 @@
+// Package ways: tests of how packages are built, where no answer shows it.
+package ways
+
+import (
+	"go/ast"
+	"go/parser"
+	"go/token"
+	"path/filepath"
+	"slices"
+	"strings"
+	"testing"
+)
+
+// names tells, of each function of a package, what names stand in it.
+func names(t *testing.T, folder string) map[string][]string {
+	t.Helper()
+	files, err := filepath.Glob(filepath.Join("..", folder, "*.go"))
+	if err != nil {
+		t.Fatal(err)
+	}
+	all := map[string][]string{}
+	for _, path := range files {
+		if strings.HasSuffix(path, "_test.go") {
+			continue
+		}
+		file, err := parser.ParseFile(token.NewFileSet(), path, nil, 0)
+		if err != nil {
+			t.Fatal(err)
+		}
+		for _, d := range file.Decls {
+			f, ok := d.(*ast.FuncDecl)
+			if !ok {
+				continue
+			}
+			ast.Inspect(f, func(n ast.Node) bool {
+				if id, ok := n.(*ast.Ident); ok {
+					all[f.Name.Name] = append(all[f.Name.Name], id.Name)
+				}
+				return true
+			})
+		}
+	}
+	return all
+}
+
+// reach tells all names that a function comes to, through others of its package.
+func reach(all map[string][]string, from string) []string {
+	found := []string{from}
+	for i := 0; i < len(found); i++ {
+		for _, name := range all[found[i]] {
+			if !slices.Contains(found, name) {
+				found = append(found, name)
+			}
+		}
+	}
+	return found
+}
+
+// TestTablesBeside: the tables that sync.Once makes stand beside: no call of the chapter comes to them or to their Once, another exported function does.
+func TestTablesBeside(t *testing.T) {
+	for _, c := range []struct{ folder, table, once, calls string }{
+		{"schema", "classes", "classesOnce", "Find Check"},
+	} {
+		all := names(t, c.folder)
+		read := false
+		for name := range all {
+			found := reach(all, name)
+			table, once := slices.Contains(found, c.table), slices.Contains(found, c.once)
+			if slices.Contains(strings.Fields(c.calls), name) && (table || once) {
+				t.Errorf("%s: %s comes to the table or to its Once", c.folder, name)
+			}
+			read = read || ast.IsExported(name) && table && once
+		}
+		for _, name := range strings.Fields(c.calls) {
+			if all[name] == nil {
+				t.Errorf("%s: %s is not there", c.folder, name)
+			}
+		}
+		if !read {
+			t.Errorf("%s: no exported function reads the table", c.folder)
+		}
+	}
+}
