@@ -25,7 +25,7 @@ const (
 	digits    = "0123456789abcdef"
 )
 
-// kinds is a table of what kindOf says of the bytes up to lastPlain. Only room asks it: no answer is worked out of it.
+// kinds is a table of what kindOf says of the bytes up to lastPlain. Special alone reads it: the calls of chapter 2 ask kindOf.
 var (
 	kinds     [lastPlain + 1]kind
 	kindsOnce sync.Once
@@ -34,7 +34,6 @@ var (
 // Text makes the text of a list, whether it may be or not.
 func Text(l []api.Rdn) string {
 	var b strings.Builder
-	b.Grow(room(l))
 	for i, r := range l {
 		if i > 0 {
 			b.WriteByte(comma)
@@ -97,26 +96,8 @@ func fillKinds() {
 	}
 }
 
-// room tells how many bytes the text of a list has at most, so that it is not moved as it grows.
-func room(l []api.Rdn) int {
+// Special tells whether a byte, somewhere in a value, does not stand as it is in the value's text.
+func Special(c byte) bool {
 	kindsOnce.Do(fillKinds)
-	n := 0
-	for _, r := range l {
-		n += len(r.Type) + len("=,")
-		for i := range len(r.Val) {
-			n += widest(r.Val[i])
-		}
-	}
-	return n
-}
-
-// widest tells, by the table, in how many bytes of text a value's byte stands at most.
-func widest(c byte) int {
-	if c > lastPlain || kinds[c] == coded {
-		return 3
-	}
-	if kinds[c] >= atHead {
-		return 2
-	}
-	return 1
+	return c > lastPlain || kinds[c] == coded || kinds[c] >= atHead
 }

@@ -59,6 +59,7 @@ func reach(all map[string][]string, from string) []string {
 // TestTablesBeside: the tables that sync.Once makes stand beside: no call of the chapter comes to them or to their Once, another exported function does.
 func TestTablesBeside(t *testing.T) {
 	for _, c := range []struct{ folder, table, once, calls string }{
+		{"dn", "kinds", "kindsOnce", "Fold May Parse Text Key Up Under"},
 		{"schema", "classes", "classesOnce", "Find Check"},
 	} {
 		all := names(t, c.folder)
