@@ -1,13 +1,35 @@
 package match
 
 import (
+	"slices"
 	"strings"
+	"sync"
 	"testing"
+
+	"brook/api"
 )
 
-// TestTable: the ways of chapter 3, the table of types is made by once, by a call from outside, and says what the functions say.
+// unmade takes the table back to what it is ahead of the first call that makes it.
+func unmade() {
+	types, typesOnce = [11]kind{}, sync.Once{}
+}
+
+// TestTable: the ways of chapter 3, the table of types is made by once, by a call from outside, whoever asks first, and says what the functions say.
 func TestTable(t *testing.T) {
-	Canon("cn")
+	unmade()
+	right := make([]bool, 16)
+	var all sync.WaitGroup
+	for i := range right {
+		all.Go(func() {
+			right[i] = slices.Equal(Types(api.RInt), []string{"uidnumber"})
+		})
+	}
+	all.Wait()
+	for i, ok := range right {
+		if !ok {
+			t.Error("3.1: at once", i)
+		}
+	}
 	made := false
 	typesOnce.Do(func() { made = true })
 	if made {
@@ -28,31 +50,75 @@ func TestTable(t *testing.T) {
 	}
 }
 
-// TestAnswersWithoutTable: an answer is not worked out of the table: it stays when the table says something else.
-func TestAnswersWithoutTable(t *testing.T) {
-	Canon("cn")
-	right := types
-	defer func() { types = right }()
-	for _, wrong := range []kind{{}, {"dc", 3}, {"cn", 4}, {strings.Repeat("x", 1000), -1}} {
-		for i := range types {
-			types[i] = wrong
-		}
-		for _, k := range right {
-			if name, ok := Canon(strings.ToUpper(k.name)); !ok || name != k.name || Rule(k.name) != k.rule {
-				t.Errorf("3.1: with a table of %v: %q, %d", wrong, name, Rule(k.name))
+// TestTypes: all types there are, by their rules.
+func TestTypes(t *testing.T) {
+	for rule, want := range map[int][]string{
+		api.RText: {"objectclass", "cn", "sn", "o", "ou", "uid", "mail", "description"}, api.RInt: {"uidnumber"}, api.RDn: {"member"}, api.RBytes: {"userpassword"},
+		0: nil, -1: nil, api.RBytes + 1: nil,
+	} {
+		for range 2 {
+			l := Types(rule)
+			if !slices.Equal(l, want) {
+				t.Error("3.1: Types of", rule, l)
 			}
-		}
-		val, ok := Norm("cn", " A ")
-		less, may := Less("uidnumber", "9", "10")
-		if _, is := Canon("dc"); is || !ok || val != "a" || !less || !may || !Same("Member", "O=x", "o=X") {
-			t.Errorf("3.2: with a table of %v", wrong)
+			// Whoever writes into what is told changes nothing else.
+			clear(append(l, "spare")[:cap(l)])
+			clear(l)
 		}
 	}
 }
 
-// TestLongest: there is room for each type, and not more than one needs.
-func TestLongest(t *testing.T) {
-	if longest() != len("userpassword") {
-		t.Error("longest:", longest())
+// askAll makes the calls of chapter 3, and tells what is wrong of their answers.
+func askAll() []string {
+	var wrong []string
+	sure := func(ok bool, call string) {
+		if !ok {
+			wrong = append(wrong, call)
+		}
+	}
+	for _, k := range allTypes() {
+		name, ok := Canon(strings.ToUpper(k.name))
+		sure(ok && name == k.name && Rule(k.name) == k.rule, "Canon, Rule of "+k.name)
+	}
+	_, ok := Canon("dc")
+	sure(!ok && Rule("dc") == 0, "Canon, Rule of none")
+	val, ok := Norm("cn", " A ")
+	sure(ok && val == "a", "Norm")
+	_, ok = Norm("dc", "a")
+	sure(!ok, "Norm of none")
+	sure(Same("Member", "O=x", "o=X") && !Same("userpassword", "A", "a"), "Same")
+	less, may := Less("uidnumber", "9", "10")
+	sure(less && may, "Less")
+	_, may = Less("member", "o=x", "o=y")
+	sure(!may, "Less of names")
+	return wrong
+}
+
+// TestTableUntouched: no call of chapter 3 makes the table.
+func TestTableUntouched(t *testing.T) {
+	unmade()
+	if wrong := askAll(); wrong != nil || types != [11]kind{} {
+		t.Error("3: without the table", wrong)
+	}
+	made := false
+	typesOnce.Do(func() { made = true })
+	if !made {
+		t.Error("3: a call came to the table's once")
+	}
+	unmade()
+}
+
+// TestAnswersWithoutTable: what chapter 3's calls answer stays when the table says something else.
+func TestAnswersWithoutTable(t *testing.T) {
+	Types(0)
+	right := types
+	defer func() { types = right }()
+	for _, k := range []kind{{}, {"dc", 3}, {"cn", 4}, {strings.Repeat("x", 1000), -1}} {
+		for i := range types {
+			types[i] = k
+		}
+		if wrong := askAll(); wrong != nil {
+			t.Errorf("3: with a table of %v: %q", k, wrong)
+		}
 	}
 }

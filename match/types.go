@@ -12,7 +12,7 @@ type kind struct {
 	rule int
 }
 
-// types is a table of what allTypes tells. Only longest asks it: no answer is worked out of it.
+// types is a table of what allTypes tells. Types alone reads it: the calls of chapter 3 ask allTypes.
 var (
 	types     [11]kind
 	typesOnce sync.Once
@@ -51,27 +51,27 @@ func find(typ string) (kind, bool) {
 
 // lowered makes letters A to Z small. The library's ToLower turns some bytes that are no such letters into letters, too.
 func lowered(s string) string {
-	b := make([]byte, 0, longest())
-	for i := range len(s) {
-		c := s[i]
+	b := []byte(s)
+	for i, c := range b {
 		if c >= 'A' && c <= 'Z' {
-			c += 'a' - 'A'
+			b[i] = c + 'a' - 'A'
 		}
-		b = append(b, c)
 	}
 	return string(b)
 }
 
-// longest tells, by the table, how many bytes the longest type has: so much room is enough for each that there is.
-func longest() int {
-	typesOnce.Do(fillTypes)
-	n := 0
-	for i := range types {
-		n = max(n, len(types[i].name))
-	}
-	return n
-}
-
 func fillTypes() {
 	types = allTypes()
+}
+
+// Types tells the names of all types whose values are alike by a rule, in the document's order.
+func Types(rule int) []string {
+	typesOnce.Do(fillTypes)
+	var names []string
+	for _, k := range types {
+		if k.rule == rule {
+			names = append(names, k.name)
+		}
+	}
+	return names
 }

@@ -60,6 +60,7 @@ func reach(all map[string][]string, from string) []string {
 func TestTablesBeside(t *testing.T) {
 	for _, c := range []struct{ folder, table, once, calls string }{
 		{"dn", "kinds", "kindsOnce", "Fold May Parse Text Key Up Under"},
+		{"match", "types", "typesOnce", "Canon Rule Norm Same Less"},
 		{"schema", "classes", "classesOnce", "Find Check"},
 	} {
 		all := names(t, c.folder)
