@@ -11,15 +11,15 @@ import (
 	"testing"
 )
 
-// names tells, of each function of a package, what names stand in it.
-func names(t *testing.T, folder string) map[string][]string {
+// sources reads the files of a package, but its tests.
+func sources(t *testing.T, folder string) []*ast.File {
 	t.Helper()
-	files, err := filepath.Glob(filepath.Join("..", folder, "*.go"))
+	paths, err := filepath.Glob(filepath.Join("..", folder, "*.go"))
 	if err != nil {
 		t.Fatal(err)
 	}
-	all := map[string][]string{}
-	for _, path := range files {
+	var l []*ast.File
+	for _, path := range paths {
 		if strings.HasSuffix(path, "_test.go") {
 			continue
 		}
@@ -27,20 +27,37 @@ func names(t *testing.T, folder string) map[string][]string {
 		if err != nil {
 			t.Fatal(err)
 		}
+		l = append(l, file)
+	}
+	if len(l) == 0 {
+		t.Fatal("no files in", folder)
+	}
+	return l
+}
+
+// names tells, of each function of a package, what names stand in it.
+func names(t *testing.T, folder string) map[string][]string {
+	t.Helper()
+	all := map[string][]string{}
+	for _, file := range sources(t, folder) {
 		for _, d := range file.Decls {
-			f, ok := d.(*ast.FuncDecl)
-			if !ok {
-				continue
+			if f, ok := d.(*ast.FuncDecl); ok {
+				all[f.Name.Name] = append(all[f.Name.Name], namesIn(f)...)
 			}
-			ast.Inspect(f, func(n ast.Node) bool {
-				if id, ok := n.(*ast.Ident); ok {
-					all[f.Name.Name] = append(all[f.Name.Name], id.Name)
-				}
-				return true
-			})
 		}
 	}
 	return all
+}
+
+func namesIn(part ast.Node) []string {
+	var l []string
+	ast.Inspect(part, func(n ast.Node) bool {
+		if id, ok := n.(*ast.Ident); ok {
+			l = append(l, id.Name)
+		}
+		return true
+	})
+	return l
 }
 
 // reach tells all names that a function comes to, through others of its package.
@@ -80,6 +97,24 @@ func TestTablesBeside(t *testing.T) {
 		}
 		if !read {
 			t.Errorf("%s: no exported function reads the table", c.folder)
+		}
+	}
+}
+
+// TestCountsInside: counts are atomic, and one call's own: no variable at package level keeps them.
+func TestCountsInside(t *testing.T) {
+	for _, folder := range []string{"ber", "entry"} {
+		atomic := false
+		for _, file := range sources(t, folder) {
+			atomic = atomic || slices.Contains(namesIn(file), "atomic")
+			for _, d := range file.Decls {
+				if g, ok := d.(*ast.GenDecl); ok && g.Tok == token.VAR {
+					t.Errorf("%s: a variable at package level: %q", folder, namesIn(g))
+				}
+			}
+		}
+		if !atomic {
+			t.Errorf("%s: no count is atomic", folder)
 		}
 	}
 }
