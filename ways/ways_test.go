@@ -103,7 +103,7 @@ func TestTablesBeside(t *testing.T) {
 
 // TestCountsInside: counts are atomic, and one call's own: no variable at package level keeps them.
 func TestCountsInside(t *testing.T) {
-	for _, folder := range []string{"ber", "entry", "filter"} {
+	for _, folder := range []string{"ber", "entry", "filter", "eval"} {
 		atomic := false
 		for _, file := range sources(t, folder) {
 			atomic = atomic || slices.Contains(namesIn(file), "atomic")
