@@ -118,3 +118,25 @@ func TestCountsInside(t *testing.T) {
 		}
 	}
 }
+
+// TestIndexInside: the index of a tree's keys is made by sync.Once, and both are one call's own: no variable at package level keeps them.
+func TestIndexInside(t *testing.T) {
+	once := false
+	for _, file := range sources(t, "tree") {
+		once = once || slices.Contains(namesIn(file), "Once")
+		for _, d := range file.Decls {
+			if g, ok := d.(*ast.GenDecl); ok && g.Tok == token.VAR {
+				t.Errorf("tree: a variable at package level: %q", namesIn(g))
+			}
+		}
+	}
+	if !once {
+		t.Error("tree: no index is made by once")
+	}
+	all := names(t, "tree")
+	for _, name := range strings.Fields("May Find Kids Put Del") {
+		if found := reach(all, name); !slices.Contains(found, "index") || !slices.Contains(found, "fill") {
+			t.Errorf("tree: %s does not come to an index", name)
+		}
+	}
+}
