@@ -103,7 +103,7 @@ func TestTablesBeside(t *testing.T) {
 
 // TestCountsInside: counts are atomic, and one call's own: no variable at package level keeps them.
 func TestCountsInside(t *testing.T) {
-	for _, folder := range []string{"ber", "entry", "filter", "eval"} {
+	for _, folder := range []string{"ber", "entry", "filter", "eval", "change"} {
 		atomic := false
 		for _, file := range sources(t, folder) {
 			atomic = atomic || slices.Contains(namesIn(file), "atomic")
@@ -137,6 +137,16 @@ func TestIndexInside(t *testing.T) {
 	for _, name := range strings.Fields("May Find Kids Put Del") {
 		if found := reach(all, name); !slices.Contains(found, "index") || !slices.Contains(found, "fill") {
 			t.Errorf("tree: %s does not come to an index", name)
+		}
+	}
+}
+
+// TestCodesCounted: MAdd and MDel ask the counts of codes that their own values make.
+func TestCodesCounted(t *testing.T) {
+	all := names(t, "change")
+	for _, name := range strings.Fields("Modify add del") {
+		if found := reach(all, name); !slices.Contains(found, "tally") || !slices.Contains(found, "count") || !slices.Contains(found, "first") {
+			t.Errorf("change: %s does not come to a count of codes", name)
 		}
 	}
 }
