@@ -103,7 +103,7 @@ func TestTablesBeside(t *testing.T) {
 
 // TestCountsInside: counts are atomic, and one call's own: no variable at package level keeps them.
 func TestCountsInside(t *testing.T) {
-	for _, folder := range []string{"ber", "entry", "filter", "eval", "change"} {
+	for _, folder := range []string{"ber", "entry", "filter", "eval", "change", "acl"} {
 		atomic := false
 		for _, file := range sources(t, folder) {
 			atomic = atomic || slices.Contains(namesIn(file), "atomic")
@@ -148,5 +148,18 @@ func TestCodesCounted(t *testing.T) {
 		if found := reach(all, name); !slices.Contains(found, "tally") || !slices.Contains(found, "count") || !slices.Contains(found, "first") {
 			t.Errorf("change: %s does not come to a count of codes", name)
 		}
+	}
+}
+
+// TestRefusalsCounted: View and Gate count what they refuse, and Gate asks that count.
+func TestRefusalsCounted(t *testing.T) {
+	all := names(t, "acl")
+	for _, name := range strings.Fields("View Gate allow") {
+		if found := reach(all, name); !slices.Contains(found, "refusals") || !slices.Contains(found, "Add") {
+			t.Errorf("acl: %s does not come to a count of refusals", name)
+		}
+	}
+	if found := all["Gate"]; !slices.Contains(found, "refusals") || !slices.Contains(found, "Load") {
+		t.Error("acl: Gate does not ask the count of refusals")
 	}
 }
