@@ -103,7 +103,7 @@ func TestTablesBeside(t *testing.T) {
 
 // TestCountsInside: counts are atomic, and one call's own: no variable at package level keeps them.
 func TestCountsInside(t *testing.T) {
-	for _, folder := range []string{"ber", "entry", "filter", "eval", "change", "acl"} {
+	for _, folder := range []string{"ber", "entry", "filter", "eval", "change", "acl", "find"} {
 		atomic := false
 		for _, file := range sources(t, folder) {
 			atomic = atomic || slices.Contains(namesIn(file), "atomic")
@@ -161,5 +161,35 @@ func TestRefusalsCounted(t *testing.T) {
 	}
 	if found := all["Gate"]; !slices.Contains(found, "refusals") || !slices.Contains(found, "Load") {
 		t.Error("acl: Gate does not ask the count of refusals")
+	}
+}
+
+// TestLookedCounted: Search asks a count of entries looked at which one is next; what it looks at is made of what may be read.
+func TestLookedCounted(t *testing.T) {
+	all := names(t, "find")
+	for _, name := range strings.Fields("Search next") {
+		if found := reach(all, name); !slices.Contains(found, "looked") || !slices.Contains(found, "Add") || !slices.Contains(found, "Load") {
+			t.Errorf("find: %s does not come to a count of entries looked at", name)
+		}
+	}
+	if found := reach(all, "Search"); !slices.Contains(found, "View") {
+		t.Error("find: Search does not come to a View")
+	}
+}
+
+// TestLayersCalled: of the project's packages each imports api, and those that its chapter names.
+func TestLayersCalled(t *testing.T) {
+	for folder, may := range map[string]string{
+		"ber": "", "dn": "", "match": "dn", "schema": "dn match", "entry": "dn match", "filter": "", "eval": "dn match entry filter", "tree": "dn schema entry", "change": "dn match schema entry tree", "acl": "dn match entry", "find": "dn entry filter eval tree acl",
+	} {
+		for _, file := range sources(t, folder) {
+			for _, spec := range file.Imports {
+				path := strings.Trim(spec.Path.Value, `"`)
+				name, own := strings.CutPrefix(path, "brook/")
+				if own && name != "api" && !slices.Contains(strings.Fields(may), name) {
+					t.Errorf("%s: a layer that its chapter does not name: %s", folder, name)
+				}
+			}
+		}
 	}
 }
