@@ -101,9 +101,9 @@ func TestTablesBeside(t *testing.T) {
 	}
 }
 
-// TestCountsInside: counts are atomic, and one call's own: no variable at package level keeps them.
+// TestCountsInside: counts, and the last one told, are atomic, and one call's own: no variable at package level keeps them.
 func TestCountsInside(t *testing.T) {
-	for _, folder := range []string{"ber", "entry", "filter", "eval", "change", "acl", "find"} {
+	for _, folder := range []string{"ber", "entry", "filter", "eval", "change", "acl", "find", "csn"} {
 		atomic := false
 		for _, file := range sources(t, folder) {
 			atomic = atomic || slices.Contains(namesIn(file), "atomic")
@@ -177,10 +177,20 @@ func TestLookedCounted(t *testing.T) {
 	}
 }
 
+// TestLastTold: Next tells what stands behind the last one told, which is atomic.
+func TestLastTold(t *testing.T) {
+	all := names(t, "csn")
+	for _, name := range strings.Fields("Next next") {
+		if found := reach(all, name); !slices.Contains(found, "last") || !slices.Contains(found, "Add") {
+			t.Errorf("csn: %s does not come to the last one told", name)
+		}
+	}
+}
+
 // TestLayersCalled: of the project's packages each imports api, and those that its chapter names.
 func TestLayersCalled(t *testing.T) {
 	for folder, may := range map[string]string{
-		"ber": "", "dn": "", "match": "dn", "schema": "dn match", "entry": "dn match", "filter": "", "eval": "dn match entry filter", "tree": "dn schema entry", "change": "dn match schema entry tree", "acl": "dn match entry", "find": "dn entry filter eval tree acl",
+		"ber": "", "dn": "", "match": "dn", "schema": "dn match", "entry": "dn match", "filter": "", "eval": "dn match entry filter", "tree": "dn schema entry", "change": "dn match schema entry tree", "acl": "dn match entry", "find": "dn entry filter eval tree acl", "csn": "",
 	} {
 		for _, file := range sources(t, folder) {
 			for _, spec := range file.Imports {
