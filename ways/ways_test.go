@@ -103,7 +103,7 @@ func TestTablesBeside(t *testing.T) {
 
 // TestCountsInside: counts, and the last one told, are atomic, and one call's own: no variable at package level keeps them.
 func TestCountsInside(t *testing.T) {
-	for _, folder := range []string{"ber", "entry", "filter", "eval", "change", "acl", "find", "csn"} {
+	for _, folder := range []string{"ber", "entry", "filter", "eval", "change", "acl", "find", "csn", "delta"} {
 		atomic := false
 		for _, file := range sources(t, folder) {
 			atomic = atomic || slices.Contains(namesIn(file), "atomic")
@@ -187,10 +187,20 @@ func TestLastTold(t *testing.T) {
 	}
 }
 
+// TestAppliedCounted: Apply and Fold ask a count of deltas applied which one is next.
+func TestAppliedCounted(t *testing.T) {
+	all := names(t, "delta")
+	for _, name := range strings.Fields("Apply Fold") {
+		if found := reach(all, name); !slices.Contains(found, "applied") || !slices.Contains(found, "Add") || !slices.Contains(found, "Load") {
+			t.Errorf("delta: %s does not come to a count of deltas applied", name)
+		}
+	}
+}
+
 // TestLayersCalled: of the project's packages each imports api, and those that its chapter names.
 func TestLayersCalled(t *testing.T) {
 	for folder, may := range map[string]string{
-		"ber": "", "dn": "", "match": "dn", "schema": "dn match", "entry": "dn match", "filter": "", "eval": "dn match entry filter", "tree": "dn schema entry", "change": "dn match schema entry tree", "acl": "dn match entry", "find": "dn entry filter eval tree acl", "csn": "",
+		"ber": "", "dn": "", "match": "dn", "schema": "dn match", "entry": "dn match", "filter": "", "eval": "dn match entry filter", "tree": "dn schema entry", "change": "dn match schema entry tree", "acl": "dn match entry", "find": "dn entry filter eval tree acl", "csn": "", "delta": "dn schema entry tree csn",
 	} {
 		for _, file := range sources(t, folder) {
 			for _, spec := range file.Imports {
