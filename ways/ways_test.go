@@ -103,7 +103,7 @@ func TestTablesBeside(t *testing.T) {
 
 // TestCountsInside: counts, and the last one told, are atomic, and one call's own: no variable at package level keeps them.
 func TestCountsInside(t *testing.T) {
-	for _, folder := range []string{"ber", "entry", "filter", "eval", "change", "acl", "find", "csn", "delta"} {
+	for _, folder := range []string{"ber", "entry", "filter", "eval", "change", "acl", "find", "csn", "delta", "kept"} {
 		atomic := false
 		for _, file := range sources(t, folder) {
 			atomic = atomic || slices.Contains(namesIn(file), "atomic")
@@ -197,10 +197,23 @@ func TestAppliedCounted(t *testing.T) {
 	}
 }
 
+// TestMadeCounted: Put and Entry count the bytes that they make, and Put asks that count.
+func TestMadeCounted(t *testing.T) {
+	all := names(t, "kept")
+	for _, name := range strings.Fields("Put Entry") {
+		if found := reach(all, name); !slices.Contains(found, "made") || !slices.Contains(found, "Add") {
+			t.Errorf("kept: %s does not come to a count of bytes made", name)
+		}
+	}
+	if found := reach(all, "Put"); !slices.Contains(found, "Load") {
+		t.Error("kept: Put does not ask the count of bytes made")
+	}
+}
+
 // TestLayersCalled: of the project's packages each imports api, and those that its chapter names.
 func TestLayersCalled(t *testing.T) {
 	for folder, may := range map[string]string{
-		"ber": "", "dn": "", "match": "dn", "schema": "dn match", "entry": "dn match", "filter": "", "eval": "dn match entry filter", "tree": "dn schema entry", "change": "dn match schema entry tree", "acl": "dn match entry", "find": "dn entry filter eval tree acl", "csn": "", "delta": "dn schema entry tree csn",
+		"ber": "", "dn": "", "match": "dn", "schema": "dn match", "entry": "dn match", "filter": "", "eval": "dn match entry filter", "tree": "dn schema entry", "change": "dn match schema entry tree", "acl": "dn match entry", "find": "dn entry filter eval tree acl", "csn": "", "delta": "dn schema entry tree csn", "kept": "ber tree csn delta",
 	} {
 		for _, file := range sources(t, folder) {
 			for _, spec := range file.Imports {
