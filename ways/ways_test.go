@@ -101,9 +101,9 @@ func TestTablesBeside(t *testing.T) {
 	}
 }
 
-// TestCountsInside: counts, and the last one told, are atomic, and one call's own: no variable at package level keeps them.
+// TestCountsInside: counts, the last one told, and the head of a history are atomic, and one call's own: no variable at package level keeps them.
 func TestCountsInside(t *testing.T) {
-	for _, folder := range []string{"ber", "entry", "filter", "eval", "change", "acl", "find", "csn", "delta", "kept"} {
+	for _, folder := range []string{"ber", "entry", "filter", "eval", "change", "acl", "find", "csn", "delta", "kept", "hist"} {
 		atomic := false
 		for _, file := range sources(t, folder) {
 			atomic = atomic || slices.Contains(namesIn(file), "atomic")
@@ -210,10 +210,20 @@ func TestMadeCounted(t *testing.T) {
 	}
 }
 
+// TestHeadBeside: Head, and what asks which one is the last, come to the head that is kept beside a history.
+func TestHeadBeside(t *testing.T) {
+	all := names(t, "hist")
+	for _, name := range strings.Fields("May Head Fits Purge") {
+		if found := reach(all, name); !slices.Contains(found, "tipOf") || !slices.Contains(found, "head") || !slices.Contains(found, "Store") || !slices.Contains(found, "Load") {
+			t.Errorf("hist: %s does not come to the head kept beside", name)
+		}
+	}
+}
+
 // TestLayersCalled: of the project's packages each imports api, and those that its chapter names.
 func TestLayersCalled(t *testing.T) {
 	for folder, may := range map[string]string{
-		"ber": "", "dn": "", "match": "dn", "schema": "dn match", "entry": "dn match", "filter": "", "eval": "dn match entry filter", "tree": "dn schema entry", "change": "dn match schema entry tree", "acl": "dn match entry", "find": "dn entry filter eval tree acl", "csn": "", "delta": "dn schema entry tree csn", "kept": "ber tree csn delta",
+		"ber": "", "dn": "", "match": "dn", "schema": "dn match", "entry": "dn match", "filter": "", "eval": "dn match entry filter", "tree": "dn schema entry", "change": "dn match schema entry tree", "acl": "dn match entry", "find": "dn entry filter eval tree acl", "csn": "", "delta": "dn schema entry tree csn", "kept": "ber tree csn delta", "hist": "csn delta",
 	} {
 		for _, file := range sources(t, folder) {
 			for _, spec := range file.Imports {
