@@ -101,9 +101,9 @@ func TestTablesBeside(t *testing.T) {
 	}
 }
 
-// TestCountsInside: counts, the last one told, and the head of a history are atomic, and one call's own: no variable at package level keeps them.
+// TestCountsInside: counts, the last one told, and the head of a history are atomic, and one call's own, or one object's: no variable at package level keeps them.
 func TestCountsInside(t *testing.T) {
-	for _, folder := range []string{"ber", "entry", "filter", "eval", "change", "acl", "find", "csn", "delta", "kept", "hist"} {
+	for _, folder := range []string{"ber", "entry", "filter", "eval", "change", "acl", "find", "csn", "delta", "kept", "hist", "strip"} {
 		atomic := false
 		for _, file := range sources(t, folder) {
 			atomic = atomic || slices.Contains(namesIn(file), "atomic")
@@ -220,10 +220,46 @@ func TestHeadBeside(t *testing.T) {
 	}
 }
 
+// TestChangesCounted: Write and Sync ask the count of changes of their strip, which Tear and Fall begin anew.
+func TestChangesCounted(t *testing.T) {
+	all := names(t, "strip")
+	for name, how := range map[string]string{"Write": "Add", "Sync": "Add", "Tear": "Store", "Fall": "Store", "New": "Store"} {
+		if found := reach(all, name); !slices.Contains(found, "changes") || !slices.Contains(found, how) {
+			t.Errorf("strip: %s does not come to the count of changes", name)
+		}
+	}
+	if l := fields(t, "strip", "Strip")["changes"]; !slices.Contains(l, "atomic") {
+		t.Errorf("strip: the count of changes is not the strip's own, or not atomic: %q", l)
+	}
+}
+
+// fields tells, of each field of a struct of a package, what names stand in its type.
+func fields(t *testing.T, folder, of string) map[string][]string {
+	t.Helper()
+	all := map[string][]string{}
+	for _, file := range sources(t, folder) {
+		ast.Inspect(file, func(n ast.Node) bool {
+			spec, ok := n.(*ast.TypeSpec)
+			if !ok || spec.Name.Name != of {
+				return true
+			}
+			if form, ok := spec.Type.(*ast.StructType); ok {
+				for _, field := range form.Fields.List {
+					for _, name := range field.Names {
+						all[name.Name] = namesIn(field.Type)
+					}
+				}
+			}
+			return false
+		})
+	}
+	return all
+}
+
 // TestLayersCalled: of the project's packages each imports api, and those that its chapter names.
 func TestLayersCalled(t *testing.T) {
 	for folder, may := range map[string]string{
-		"ber": "", "dn": "", "match": "dn", "schema": "dn match", "entry": "dn match", "filter": "", "eval": "dn match entry filter", "tree": "dn schema entry", "change": "dn match schema entry tree", "acl": "dn match entry", "find": "dn entry filter eval tree acl", "csn": "", "delta": "dn schema entry tree csn", "kept": "ber tree csn delta", "hist": "csn delta",
+		"ber": "", "dn": "", "match": "dn", "schema": "dn match", "entry": "dn match", "filter": "", "eval": "dn match entry filter", "tree": "dn schema entry", "change": "dn match schema entry tree", "acl": "dn match entry", "find": "dn entry filter eval tree acl", "csn": "", "delta": "dn schema entry tree csn", "kept": "ber tree csn delta", "hist": "csn delta", "strip": "",
 	} {
 		for _, file := range sources(t, folder) {
 			for _, spec := range file.Imports {
