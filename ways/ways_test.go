@@ -101,9 +101,9 @@ func TestTablesBeside(t *testing.T) {
 	}
 }
 
-// TestCountsInside: counts, the last one told, and the head of a history are atomic, and one call's own, or one object's: no variable at package level keeps them.
+// TestCountsInside: counts, the last one told, the head of a history, and where the next record goes are atomic, and one call's own, or one object's: no variable at package level keeps them.
 func TestCountsInside(t *testing.T) {
-	for _, folder := range []string{"ber", "entry", "filter", "eval", "change", "acl", "find", "csn", "delta", "kept", "hist", "strip"} {
+	for _, folder := range []string{"ber", "entry", "filter", "eval", "change", "acl", "find", "csn", "delta", "kept", "hist", "strip", "wal"} {
 		atomic := false
 		for _, file := range sources(t, folder) {
 			atomic = atomic || slices.Contains(namesIn(file), "atomic")
@@ -233,6 +233,22 @@ func TestChangesCounted(t *testing.T) {
 	}
 }
 
+// TestNextRecord: Append and Checkpoint ask where the next record goes, which is the Wal's own, and say it anew; Open says it.
+func TestNextRecord(t *testing.T) {
+	all := names(t, "wal")
+	for name, how := range map[string]string{"Append": "Load Store", "Checkpoint": "Load Store", "Open": "Store"} {
+		found := reach(all, name)
+		for _, x := range append(strings.Fields(how), "next") {
+			if !slices.Contains(found, x) {
+				t.Errorf("wal: %s does not come to where the next record goes: %s", name, x)
+			}
+		}
+	}
+	if l := fields(t, "wal", "Wal")["next"]; !slices.Contains(l, "atomic") {
+		t.Errorf("wal: where the next record goes is not the Wal's own, or not atomic: %q", l)
+	}
+}
+
 // fields tells, of each field of a struct of a package, what names stand in its type.
 func fields(t *testing.T, folder, of string) map[string][]string {
 	t.Helper()
@@ -259,7 +275,7 @@ func fields(t *testing.T, folder, of string) map[string][]string {
 // TestLayersCalled: of the project's packages each imports api, and those that its chapter names.
 func TestLayersCalled(t *testing.T) {
 	for folder, may := range map[string]string{
-		"ber": "", "dn": "", "match": "dn", "schema": "dn match", "entry": "dn match", "filter": "", "eval": "dn match entry filter", "tree": "dn schema entry", "change": "dn match schema entry tree", "acl": "dn match entry", "find": "dn entry filter eval tree acl", "csn": "", "delta": "dn schema entry tree csn", "kept": "ber tree csn delta", "hist": "csn delta", "strip": "",
+		"ber": "", "dn": "", "match": "dn", "schema": "dn match", "entry": "dn match", "filter": "", "eval": "dn match entry filter", "tree": "dn schema entry", "change": "dn match schema entry tree", "acl": "dn match entry", "find": "dn entry filter eval tree acl", "csn": "", "delta": "dn schema entry tree csn", "kept": "ber tree csn delta", "hist": "csn delta", "strip": "", "wal": "strip",
 	} {
 		for _, file := range sources(t, folder) {
 			for _, spec := range file.Imports {
